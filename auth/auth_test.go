@@ -358,6 +358,31 @@ func TestThirdPartyKeys(t *testing.T) {
 	}
 }
 
+// Keys and signatures are told in the plain alphabet, not in that for URLs.
+func TestThirdPartyLetters(t *testing.T) {
+	forURL := strings.NewReplacer("+", "-", "/", "_")
+	keys, sigs := 0, 0
+	for seed := range byte(20) {
+		signed, key := signedBy(seed, "tok", "@c:y"), keyOf(seed)
+		st := state(create(`{}`), third("@b:x", "tok", `{"public_key":`+key+`}`))
+		expect(t, "plain letters", bySigned(signed), st, true)
+		if other := forURL.Replace(key); other != key {
+			keys++
+			for _, content := range []string{`{"public_key":` + other + `}`, `{"public_keys":[{"public_key":` + other + `}]}`} {
+				expect(t, "a key for URLs", bySigned(signed), state(create(`{}`), third("@b:x", "tok", content)), false)
+			}
+		}
+		text, _ := json.Canon(signed)
+		if other := forURL.Replace(text); other != text {
+			sigs++
+			expect(t, "a signature for URLs", bySigned(parse(other)), st, false)
+		}
+	}
+	if keys == 0 || sigs == 0 {
+		t.Error("the test shows nothing")
+	}
+}
+
 func TestThirdPartyInvite(t *testing.T) {
 	content := `{"public_key":` + keyOf(1) + `}`
 	signed := signedBy(1, "tok", "@c:y")

@@ -7,23 +7,33 @@ import (
 	"hustings/api"
 )
 
-// maxNest is how deep parts are copied: a value that has itself as a part would have no end.
-const maxNest = 1 << 16
+// A value that has itself as a part has no end, so there is one here: far beyond what any text can tell.
+const (
+	maxNest  = 1 << 16
+	maxParts = 1 << 20
+)
+
+// copier is a copy under way, and how many parts it may have yet.
+type copier struct{ left int }
 
 // Value: the same value in new memory.
-func Value(v api.Value) api.Value { return value(v, maxNest) }
+func Value(v api.Value) api.Value {
+	c := &copier{maxParts}
+	return c.value(v, 0)
+}
 
-func value(v api.Value, left int) api.Value {
-	if left == 0 {
+func (c *copier) value(v api.Value, within int) api.Value {
+	c.left -= len(v.List) + len(v.Map)
+	if c.left < 0 || within == maxNest {
 		return v
 	}
 	v.List = slices.Clone(v.List)
 	for i, part := range v.List {
-		v.List[i] = value(part, left-1)
+		v.List[i] = c.value(part, within+1)
 	}
 	v.Map = slices.Clone(v.Map)
 	for i, m := range v.Map {
-		v.Map[i].Val = value(m.Val, left-1)
+		v.Map[i].Val = c.value(m.Val, within+1)
 	}
 	return v
 }

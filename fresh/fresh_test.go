@@ -33,6 +33,11 @@ func TestEndless(t *testing.T) {
 	if v := fresh.Value(l[0]); len(v.List) != 1 || &v.List[0] == &l[0] {
 		t.Error("a value within itself")
 	}
+	l = append(l, l[0])
+	l[0].List, l[1].List = l, l
+	if v := fresh.Value(l[0]); len(v.List) != 2 {
+		t.Error("a value twice within itself")
+	}
 	if v := fresh.Value(api.Value{}); !reflect.DeepEqual(v, api.Value{}) {
 		t.Error("the copy of null is another value")
 	}

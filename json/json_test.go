@@ -366,6 +366,13 @@ func deepList(n int, inner api.Value) api.Value {
 	return inner
 }
 
+func deepMap(n int, inner api.Value) api.Value {
+	for range n {
+		inner = table(member("a", inner))
+	}
+	return inner
+}
+
 func TestCanonFaults(t *testing.T) {
 	one := []api.Value{num(1)}
 	members := []api.Member{member("a", num(1))}
@@ -412,6 +419,11 @@ func TestCanonFaults(t *testing.T) {
 		{deepList(33, bad), api.ErrDeep},
 		{deepList(32, api.Value{Kind: api.KindList, N: 1}), api.ErrArg},
 		{deepList(3000, num(1)), api.ErrDeep},
+		{deepMap(32, num(1)), api.OK},
+		{deepMap(33, num(1)), api.ErrDeep},
+		{deepMap(16, deepList(16, num(1))), api.OK},
+		{deepMap(16, deepList(16, list())), api.ErrDeep},
+		{deepList(16, deepMap(16, table())), api.ErrDeep},
 		{list(deepList(32, num(1)), bad), api.ErrDeep},
 		{list(bad, deepList(32, num(1))), api.ErrArg},
 		{text(whole), api.OK},
@@ -460,5 +472,15 @@ func TestCanonEnds(t *testing.T) {
 	l[0].List = l
 	if _, e := json.Canon(l[0]); e != api.ErrDeep {
 		t.Errorf("a list within itself: %d", e)
+	}
+}
+
+// Each byte ahead of a value, behind it, and within a number.
+func TestEveryByte(t *testing.T) {
+	for c := range 256 {
+		b := string([]byte{byte(c)})
+		for _, s := range []string{b + "[]", "[]" + b, "[" + b + "]", "1" + b, "[1" + b + "1]", "1" + b + "1", "-" + b, "0" + b + "1", "1e" + b, `{` + b + `"a":1}`, `{"a"` + b + `:1}`, `{"a":1` + b + `}`, `[1` + b + `,1]`, "nul" + b, b + "ull", b} {
+			checkParse(t, s)
+		}
 	}
 }

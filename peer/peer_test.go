@@ -523,6 +523,7 @@ func TestRefused(t *testing.T) {
 	if len(b.Waits()) != 1 {
 		t.Error("it doesn't wait")
 	}
+	want(t, "Tick of one that misses one", b.Tick(), post("b", "a", api.PostAsk, gap.Prev[0]))
 }
 
 // Rejected events are there, and told to be; they are in no queue when it is opened again.

@@ -214,3 +214,48 @@ func TestTakeAgainstLibrary(t *testing.T) {
 		}
 	}
 }
+
+// Each byte behind a backslash, and at each place of a rune's number.
+func TestEveryByte(t *testing.T) {
+	short := map[byte]string{'"': `"`, '\\': `\`, '/': "/", 'b': "\b", 'f': "\f", 'n': "\n", 'r': "\r", 't': "\t"}
+	for c := range 256 {
+		b := string([]byte{byte(c)})
+		got, _, ok := quote.Take(`"\`+b+`"`, 0)
+		if c == '"' || c == '\\' { // the quote behind is needed
+			got, _, ok = quote.Take(`"\`+b+`""`, 0)
+		}
+		if want, good := short[byte(c)]; ok != good || got != want {
+			t.Errorf("a backslash and %q: %q, %v", b, got, ok)
+		}
+		for at := range 4 {
+			digits := "0000"[:at] + b + "0000"[at+1:]
+			value, good := strings.Index("0123456789abcdef", strings.ToLower(b)), strings.Contains("0123456789abcdefABCDEF", b)
+			r := rune(value << (4 * (3 - at)))
+			good = good && (r < 0xd800 || r > 0xdfff)
+			got, _, ok := quote.Take(`"\u`+digits+`"`, 0)
+			if ok != good || ok && got != string(r) || !ok && got != "" {
+				t.Errorf("the number %q: %q, %v", digits, got, ok)
+			}
+		}
+	}
+}
+
+// Halves of runes at their edges, in each order.
+func TestHalves(t *testing.T) {
+	halves := []rune{0xd7ff, 0xd800, 0xdbff, 0xdc00, 0xdfff, 0xe000}
+	for _, a := range halves {
+		for _, b := range halves {
+			var want []rune
+			switch {
+			case a >= 0xd800 && a < 0xdc00 && b >= 0xdc00 && b < 0xe000:
+				want = []rune{0x10000 + 0x400*(a-0xd800) + (b - 0xdc00)}
+			case (a < 0xd800 || a >= 0xe000) && (b < 0xd800 || b >= 0xe000):
+				want = []rune{a, b}
+			}
+			got, _, ok := quote.Take(fmt.Sprintf(`"\u%04x\u%04X"`, a, b), 0)
+			if ok != (want != nil) || got != string(want) {
+				t.Errorf("%x and %x: %q, %v", a, b, got, ok)
+			}
+		}
+	}
+}

@@ -31,10 +31,11 @@ type room struct {
 	book   *resolve.Book
 	model  *model
 	states map[string][]api.Slot
+	also   []string // what the next events' Auth names, too
 }
 
 func newRoom(t *testing.T) *room {
-	return &room{t, resolve.New(), newModel(), map[string][]api.Slot{"": nil}}
+	return &room{t, resolve.New(), newModel(), map[string][]api.Slot{"": nil}, nil}
 }
 
 func (r *room) add(id string, e api.Event, bad bool) {
@@ -50,7 +51,8 @@ func (r *room) put(id, behind, kind, sender, key, content string, time int) {
 	r.t.Helper()
 	e := ev(kind, sender, key, content, time)
 	state := r.states[behind]
-	e.Auth = pick.Select(e, state)
+	e.State = kind != "m.room.message"
+	e.Auth = append(pick.Select(e, state), r.also...)
 	if kind == "m.room.create" {
 		e.Prev = nil
 	} else {
@@ -223,6 +225,12 @@ func TestByChance(t *testing.T) {
 				kind, key, content = "m.room.member", any(users...), `{"membership":"`+any("leave", "ban", "invite", "")+`"}`
 			case 4:
 				key = any("", "k", user)
+			case 5:
+				kind = any("m.room.topic", "m.room.message")
+			}
+			r.also = nil
+			if rnd.Intn(4) == 0 {
+				r.also = []string{any(ids...), ids[len(ids)-1]}
 			}
 			if rnd.Intn(3) == 0 {
 				user = "@a:x"

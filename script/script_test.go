@@ -206,6 +206,33 @@ func TestPower(t *testing.T) {
 	want(t, "power", got, ok, ids[0], ok, `{"error":50}`, ok, ok, `{"error":50}`, ok, strings.Replace(strings.Replace(ids[0], `"id":`, `"ids":[`, 1), "}", `],"next":1}`, 1), `{"error":1}`, `{"error":1}`, `{"error":1}`, ok, `{"error":50}`)
 }
 
+// So much of what wasn't synced stays as arm says: the whole line, and the event is there behind it, or less.
+func TestArmKeep(t *testing.T) {
+	_, ids := made(t, create, join)
+	for keep, n := range map[int]int{0: 1, 100: 1, 100000: 2} {
+		got := run(t, begin, create, fmt.Sprintf(`{"do":"arm","at":0,"n":2,"keep":%d}`, keep), join, `{"do":"start","at":0}`, `{"do":"sync","at":0,"since":0}`)
+		if v := parse(got[5]); got[1] != ids[0] || got[3] != `{"error":50}` || !strings.Contains(got[5], fmt.Sprintf(`"next":%d`, n)) || len(v.Map) != 2 {
+			t.Errorf("kept %d: %q", keep, got)
+		}
+	}
+}
+
+// round does what the world's Round does.
+func TestRound(t *testing.T) {
+	w, ids := made(t, create, join)
+	lines, wants := []string{begin, create, join}, append([]string{ok}, ids...)
+	for range 4 {
+		w.Round()
+		r := w.Peer(1).Room()
+		lines = append(lines, `{"do":"round"}`, `{"do":"flight"}`, `{"do":"show","at":1}`)
+		wants = append(wants, ok, said("flight", w.Flight()), said("heads", r.Heads(), "len", r.Len(), "waits", []string{}))
+	}
+	want(t, "rounds", run(t, lines...), wants...)
+	if w.Peer(1).Room().Len() != 2 {
+		t.Error("the test shows nothing")
+	}
+}
+
 func TestAsks(t *testing.T) {
 	lines := []string{create, join, public, word, `{"do":"send","at":0,"sender":"@u:s0","type":"m.room.member","key":"@v:s1","content":{"membership":"ban"}}`}
 	w, ids := made(t, lines...)

@@ -208,6 +208,8 @@ func TestAddErrors(t *testing.T) {
 		if got, err := seal.Check(x, []api.Key{public(ka)}); err != want || !reflect.DeepEqual(got, api.Event{}) {
 			t.Errorf("Check: %d, want %d", err, want)
 		}
+		empty := ed25519.Sign(private(ka), nil) // what is signed of it is nothing
+		x.Sigs = []api.Sig{{Server: "a", Key: "ed25519:1", Sign: base64.RawStdEncoding.EncodeToString(empty)}}
 		if seal.Signed(x, "a", []api.Key{public(ka)}) {
 			t.Errorf("the event of error %d is signed", want)
 		}

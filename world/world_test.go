@@ -407,7 +407,9 @@ func TestMemory(t *testing.T) {
 	if posts[0].Texts[1] != texts[1] || one.Peer(1).Room().Len() != 0 {
 		t.Error("what was handed in was changed, or two worlds know of one another")
 	}
-	one.Put(api.Post{From: "s1", To: "s0", Kind: api.PostGot, IDs: ids})
+	got := slices.Clone(ids)
+	one.Put(api.Post{From: "s1", To: "s0", Kind: api.PostGot, IDs: got})
+	got[0], got[1], got[2] = "x", "x", "x"
 	one.Double(3)
 	for range 2 {
 		one.Deliver(3)
